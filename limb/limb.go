@@ -5,6 +5,7 @@ import (
 	"iter"
 
 	"merestone/api"
+	"merestone/quit"
 )
 
 // Of is that number.
@@ -128,11 +129,11 @@ func Parse(s string) (api.Int, api.Errno) {
 	if !isText(s) {
 		return api.Int{}, api.ErrDigits
 	}
-	var n number
-	if e := caught(func() { n.read(s) }); e != api.OK {
-		return api.Int{}, e
-	}
-	return n.Int, api.OK
+	return quit.Caught(func() api.Int {
+		var n number
+		n.read(s)
+		return n.Int
+	})
 }
 
 // Bits goes over the places of the bits of a's magnitude that are 1, rising.

@@ -1,6 +1,9 @@
 package limb
 
-import "merestone/api"
+import (
+	"merestone/api"
+	"merestone/quit"
+)
 
 // A number is an Int under way: over is what its magnitude has above the words of an Int.
 type number struct {
@@ -13,38 +16,18 @@ func (n *number) after(step func(api.Int), l ...api.Int) (api.Int, api.Errno) {
 	if e := checkAll(l...); e != api.OK {
 		return api.Int{}, e
 	}
-	e := caught(func() {
+	return quit.Caught(func() api.Int {
 		for _, a := range l {
 			step(a)
 		}
+		return n.Int
 	})
-	if e != api.OK {
-		return api.Int{}, e
-	}
-	return n.Int, api.OK
-}
-
-// caught does the work, and tells for what it gave up, if it did.
-func caught(work func()) (e api.Errno) {
-	defer func() {
-		gone := recover()
-		if gone == nil {
-			return
-		}
-		told, ok := gone.(api.Errno)
-		if !ok {
-			panic(gone) // no answer of the document's, but a fault in here
-		}
-		e = told
-	}()
-	work()
-	return api.OK
 }
 
 // settle gives up if the number is too great; nought has no sign.
 func (n *number) settle() {
 	if n.over != 0 {
-		panic(api.ErrOver)
+		quit.For(api.ErrOver)
 	}
 	n.Neg = n.Neg && n.Mag != words{}
 }

@@ -2,6 +2,7 @@ package point
 
 import (
 	"merestone/api"
+	"merestone/quit"
 	"merestone/ratio"
 )
 
@@ -14,46 +15,24 @@ type spot struct {
 func after(p api.Point, step func(*spot, api.Point), q api.Point) (api.Point, api.Errno) {
 	at := spot{Point: p}
 	return at.done(func() {
-		give(rightAll(p, q))
+		quit.For(rightAll(p, q))
 		step(&at, q)
 	})
 }
 
 // done is the point that the spot is when the work is done, or for what the work gave up.
-func (p *spot) done(work func()) (at api.Point, e api.Errno) {
-	defer func() {
-		gone := recover()
-		if gone == nil {
-			return
-		}
-		told, ok := gone.(api.Errno)
-		if !ok {
-			panic(gone) // no answer of the document's, but a fault in here
-		}
-		at, e = api.Point{}, told
-	}()
-	work()
-	p.settle()
-	return p.Point, api.OK
-}
-
-// give gives up for an error, if it is one.
-func give(e api.Errno) {
-	if e != api.OK {
-		panic(e)
-	}
-}
-
-// must is the answer; where there is none, the work is given up.
-func must(x api.Rat, e api.Errno) api.Rat {
-	give(e)
-	return x
+func (p *spot) done(work func()) (api.Point, api.Errno) {
+	return quit.Caught(func() api.Point {
+		work()
+		p.settle()
+		return p.Point
+	})
 }
 
 // settle gives up if the spot is too great for a point.
 func (p *spot) settle() {
 	if tooGreat(p.X) || tooGreat(p.Y) {
-		give(api.ErrOver)
+		quit.For(api.ErrOver)
 	}
 }
 
@@ -65,13 +44,13 @@ func tooGreat(x api.Rat) bool {
 
 // by moves it as far as q is from 0 0.
 func (p *spot) by(q api.Point) {
-	p.X = must(ratio.Add(p.X, q.X))
-	p.Y = must(ratio.Add(p.Y, q.Y))
+	p.X = quit.Must(ratio.Add(p.X, q.X))
+	p.Y = quit.Must(ratio.Add(p.Y, q.Y))
 }
 
 // halfway moves it to the middle of itself and q.
 func (p *spot) halfway(q api.Point) {
 	p.by(q)
-	p.X = must(ratio.Div(p.X, ratio.Of(2)))
-	p.Y = must(ratio.Div(p.Y, ratio.Of(2)))
+	p.X = quit.Must(ratio.Div(p.X, ratio.Of(2)))
+	p.Y = quit.Must(ratio.Div(p.Y, ratio.Of(2)))
 }

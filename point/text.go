@@ -5,6 +5,7 @@ import (
 	"strings"
 
 	"merestone/api"
+	"merestone/quit"
 	"merestone/ratio"
 )
 
@@ -39,5 +40,5 @@ parts:
 			break parts
 		}
 	}
-	give(wrong)
+	quit.For(wrong)
 }

@@ -6,6 +6,7 @@ import (
 
 	"merestone/api"
 	"merestone/limb"
+	"merestone/quit"
 )
 
 // stroke stands between the digits of a text.
@@ -43,9 +44,7 @@ sides:
 	if wrong == api.OK && Check(x.Rat) != api.OK {
 		wrong = api.ErrRat // not in lowest terms
 	}
-	if wrong != api.OK {
-		panic(wrong)
-	}
+	quit.For(wrong)
 }
 
 // isBehind tells if an Int's digits, however many, may stand behind a stroke.

@@ -5,6 +5,7 @@ import (
 	"math/bits"
 
 	"merestone/api"
+	"merestone/quit"
 )
 
 // A wide is a whole number wider than an Int, its lowest word ahead; below nought it is what is left of 2^640 without
@@ -65,7 +66,7 @@ func (w wide) narrow() api.Int {
 	var low wide
 	copy(low[:len(n.Mag)], w[:])
 	if w != low {
-		panic(api.ErrOver)
+		quit.For(api.ErrOver)
 	}
 	copy(n.Mag[:], w[:])
 	return n

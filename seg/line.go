@@ -4,6 +4,7 @@ import (
 	"merestone/api"
 	"merestone/limb"
 	"merestone/point"
+	"merestone/quit"
 )
 
 // A line is a segment under way: how far to the right of A, and how far up from there, B is.
@@ -19,39 +20,10 @@ func from(s api.Seg) line {
 
 // told is what is asked of a segment's line; of one that may not be, nothing is asked.
 func told[T any](s api.Seg, ask func(line) T) (T, api.Errno) {
-	return caught(func() T {
-		give(Check(s))
+	return quit.Caught(func() T {
+		quit.For(Check(s))
 		return ask(from(s))
 	})
-}
-
-// caught is what the work answers, or for what it gave up.
-func caught[T any](work func() T) (answer T, e api.Errno) {
-	defer func() {
-		gone := recover()
-		if gone == nil {
-			return
-		}
-		why, ok := gone.(api.Errno)
-		if !ok {
-			panic(gone) // no answer of the document's, but a fault in here
-		}
-		e = why
-	}()
-	return work(), api.OK
-}
-
-// give gives up for an error, if it is one.
-func give(e api.Errno) {
-	if e != api.OK {
-		panic(e)
-	}
-}
-
-// must is the answer; where there is none, the work is given up.
-func must[T any](x T, e api.Errno) T {
-	give(e)
-	return x
 }
 
 // laid is its segment with A ahead of B: what lies to the left, or straight below, is ahead.
@@ -70,7 +42,7 @@ func (l line) spans(p api.Point) bool {
 
 // order tells -1, 0 or 1: p is ahead of n, there, behind it.
 func order(p api.Point, n api.Node) int {
-	return must(point.Cmp(p, must(point.Of(n))))
+	return quit.Must(point.Cmp(p, quit.Must(point.Of(n))))
 }
 
 // turn tells the side of a node. What is multiplied is at most 2^27, so words are enough.
@@ -95,13 +67,13 @@ func (l line) sideOf(p api.Point) int {
 	if n, whole := point.Grid(p); whole {
 		return l.turn(n)
 	}
-	give(point.Right(p))
-	left := must(limb.Mul(limb.Of(l.right), way(l.A.Y, p.Y), p.X.D))
-	right := must(limb.Mul(limb.Of(l.up), way(l.A.X, p.X), p.Y.D))
-	return must(limb.Cmp(left, right))
+	quit.For(point.Right(p))
+	left := quit.Must(limb.Mul(limb.Of(l.right), way(l.A.Y, p.Y), p.X.D))
+	right := quit.Must(limb.Mul(limb.Of(l.up), way(l.A.X, p.X), p.Y.D))
+	return quit.Must(limb.Cmp(left, right))
 }
 
 // way is how far it is from n to x, D of x times.
 func way(n int64, x api.Rat) api.Int {
-	return must(limb.Sub(x.N, must(limb.Mul(limb.Of(n), x.D))))
+	return quit.Must(limb.Sub(x.N, quit.Must(limb.Mul(limb.Of(n), x.D))))
 }

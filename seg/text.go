@@ -5,6 +5,7 @@ import (
 
 	"merestone/api"
 	"merestone/point"
+	"merestone/quit"
 )
 
 // comma stands between the nodes of a text.
@@ -17,7 +18,7 @@ func (l line) text() string {
 
 // nodeText is X, a blank, and Y.
 func nodeText(n api.Node) string {
-	return must(point.Text(must(point.Of(n))))
+	return quit.Must(point.Text(quit.Must(point.Of(n))))
 }
 
 // read is the segment whose text it is; what is no segment's is given up.
@@ -30,7 +31,7 @@ func read(text string) api.Seg {
 	}
 	s := api.Seg{A: node(next()), B: node(next())}
 	if more || Check(s) != api.OK {
-		give(api.ErrSeg)
+		quit.For(api.ErrSeg)
 	}
 	return s
 }
@@ -40,7 +41,7 @@ func node(text string) api.Node {
 	p, e := point.Parse(text)
 	n, whole := point.Grid(p)
 	if e != api.OK || !whole {
-		give(api.ErrSeg)
+		quit.For(api.ErrSeg)
 	}
 	return n
 }
