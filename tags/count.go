@@ -26,6 +26,11 @@ func may(n int64) bool {
 	return n >= 1 && n <= api.MaxNumber
 }
 
+// mayAll tells if all numbers may be.
+func mayAll(l ...int64) bool {
+	return !slices.ContainsFunc(l, func(n int64) bool { return !may(n) })
+}
+
 // often is the number alone, so often.
 func often(n int64, times int) []count {
 	return []count{{number{n}, times}}

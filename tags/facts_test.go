@@ -83,17 +83,16 @@ func (c counts) told() api.Errno {
 	return api.OK
 }
 
-// added is what New tells of these, one by one.
+// added is what New tells of these: of one that may not be ahead of too many.
 func added(l ...int64) (counts, api.Errno) {
-	c := counts{}
 	for _, n := range l {
 		if n < 1 || n > greatest {
 			return nil, api.ErrArg
 		}
-		c[n]++
-		if e := c.told(); e != api.OK {
-			return nil, e
-		}
+	}
+	c := counted(l...)
+	if e := c.told(); e != api.OK {
+		return nil, e
 	}
 	return c, api.OK
 }

@@ -56,19 +56,53 @@ func TestNewAtItsBounds(t *testing.T) {
 	}
 }
 
-func TestNewGoesOneByOne(t *testing.T) {
-	for _, c := range []struct {
-		l    []int64
-		want api.Errno
-	}{
-		{append(times(1, 256), 0), api.ErrLong}, {append(times(1, 255), 0, 1), api.ErrArg}, {append([]int64{0}, times(1, 256)...), api.ErrArg},
-		{append(from(1, 65), -1), api.ErrLong}, {append(from(1, 64), -1, 65), api.ErrArg}, {append([]int64{greatest + 1}, from(1, 65)...), api.ErrArg},
+// TestNewTellsWhatMayNotBeFirst puts one number that may not be among too many, at every kind of place.
+func TestNewTellsWhatMayNotBeFirst(t *testing.T) {
+	for _, l := range [][]int64{
+		times(1, 256), times(greatest, 256), from(1, 65), from(greatest-64, 65), slices.Repeat(from(1, 65), 256), slices.Concat(times(7, 256), from(1, 65)), times(3, 100000),
 	} {
-		got, e := tags.New(c.l...)
-		refused(t, got, e, c.want)
-		if _, wanted := added(c.l...); wanted != c.want {
-			t.Error(c, wanted)
+		got, e := tags.New(l...)
+		refused(t, got, e, api.ErrLong)
+		for _, n := range bad() {
+			for _, at := range []int{0, 1, 63, 64, 65, len(l) / 2, len(l) - 1, len(l)} {
+				mixed := slices.Insert(slices.Clone(l), at, n)
+				got, e := tags.New(mixed...)
+				refused(t, got, e, api.ErrArg)
+				if _, wanted := added(mixed...); wanted != api.ErrArg {
+					t.Error(n, at, wanted)
+				}
+			}
 		}
+	}
+}
+
+// TestNewOfMixedNumbers draws lists in which numbers may not be, or are too many, or both.
+func TestNewOfMixedNumbers(t *testing.T) {
+	draw := drawn()
+	told := map[api.Errno]int{}
+	for range 600 {
+		many, different := 1+draw(600), 1+draw(130)
+		var l []int64
+		for range many {
+			l = append(l, int64(1+draw(different)))
+		}
+		for range max(0, draw(4)-1) {
+			l = slices.Insert(l, draw(len(l)+1), bad()[draw(len(bad()))])
+		}
+		got, e := tags.New(l...)
+		wanted, wrong := added(l...)
+		told[wrong]++
+		if wrong != api.OK {
+			refused(t, got, e, wrong)
+			continue
+		}
+		if e != api.OK {
+			t.Fatal(l, e)
+		}
+		is(t, got, wanted)
+	}
+	if told[api.OK] < 50 || told[api.ErrArg] < 50 || told[api.ErrLong] < 50 {
+		t.Error("too few are there", told)
 	}
 }
 
