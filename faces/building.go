@@ -61,11 +61,11 @@ func (b *building) face(c int) int {
 // below is the cycle over the edge that is under the least point of a cycle; ErrNone where there is none.
 func (b *building) below(c int) (int, api.Errno) {
 	return quit.Caught(func() int {
-		k, is, e := Under(b.plan, in(b.plan.Points, in(b.least, c)))
+		k, is, e := Under(b.plan, quit.In(b.plan.Points, quit.In(b.least, c)))
 		quit.For(e)
 		if !is {
 			quit.For(api.ErrNone)
 		}
-		return in(b.mesh.Cycle, 2*k)
+		return quit.In(b.mesh.Cycle, 2*k)
 	})
 }

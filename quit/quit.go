@@ -31,3 +31,11 @@ func Must[T any](x T, e api.Errno) T {
 	For(e)
 	return x
 }
+
+// In is what stands at a place of a list; where there is no such place, the work is given up.
+func In[T any](l []T, i int) T {
+	if i < 0 || i >= len(l) {
+		For(api.ErrRange)
+	}
+	return l[i]
+}

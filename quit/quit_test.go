@@ -1,6 +1,7 @@
 package quit_test
 
 import (
+	"math"
 	"testing"
 
 	"merestone/api"
@@ -23,6 +24,23 @@ func TestCaught(t *testing.T) {
 				t.Error(got, e, on)
 			}
 		}
+	}
+}
+
+func TestIn(t *testing.T) {
+	l := []int{7, 8, 9}
+	for i, wanted := range l {
+		if got, e := quit.Caught(func() int { return quit.In(l, i) }); got != wanted || e != api.OK {
+			t.Error(i, got, e)
+		}
+	}
+	for _, i := range []int{-1, 3, 4, math.MaxInt, math.MinInt} {
+		if got, e := quit.Caught(func() int { return quit.In(l[:3:3], i) }); got != 0 || e != api.ErrRange {
+			t.Error(i, got, e)
+		}
+	}
+	if got, e := quit.Caught(func() int { return quit.In([]int(nil), 0) }); got != 0 || e != api.ErrRange {
+		t.Error("of none", got, e)
 	}
 }
 

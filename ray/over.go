@@ -78,8 +78,8 @@ func (r ray) straight() (first, behind int) {
 
 // at is the height over x of the edge k; it gives up, if there is none.
 func (r ray) at(k int) api.Rat {
-	e := in(r.Edges, k)
-	a, b := in(r.Points, e.A), in(r.Points, e.B)
+	e := quit.In(r.Edges, k)
+	a, b := quit.In(r.Points, e.A), quit.In(r.Points, e.B)
 	switch {
 	case seen(a.X, b.X) == 0:
 		quit.For(api.ErrUpright)
@@ -98,12 +98,4 @@ func (r ray) height(a, b api.Point) api.Rat {
 // less is a without b.
 func less(a, b api.Rat) api.Rat {
 	return quit.Must(ratio.Sub(a, b))
-}
-
-// in is what stands at a place of a list; it gives up at one that there is not.
-func in[T any](l []T, i int) T {
-	if i < 0 || i >= len(l) {
-		quit.For(api.ErrRange)
-	}
-	return l[i]
 }
